@@ -89,21 +89,25 @@ func TestBack(t *testing.T) {
 	}
 }
 
-// A command is as long as may be: the 13 of its last line's end is the last byte that counts.
+// A command is as long as may be: its texts and marks count, the ends of its lines do not.
 func TestBackAtTheBounds(t *testing.T) {
-	wantBack(t, rawOf(times("a", api.MaxLine-1)))
-	wantBack(t, rawOf(times("a", api.MaxLine-5), "l", ""))
-	wantBack(t, rawOf("", "l", times("a", api.MaxLine-5)))
-	wantBack(t, rawOf(times("a", 2000), "", times("b", 1987), "0123456789", "ccc"))
+	for less := range 3 {
+		wantBack(t, rawOf(times("a", api.MaxLine-less)))
+		wantBack(t, rawOf(times("a", api.MaxLine-4-less), "l", ""))
+		wantBack(t, rawOf("", "l", times("a", api.MaxLine-4-less)))
+		wantBack(t, rawOf("a", "x", times("a", api.MaxLine-5-less)))
+		wantBack(t, rawOf(times("a", 2000), "", times("b", 1988-less), "0123456789", "ccc"))
+	}
 	all := []string{}
 	for i := range api.MaxLiterals {
 		all = append(all, itoa(i), times("l", i*2000))
 	}
 	wantBack(t, rawOf(append(all, "end")...))
 	for _, all := range [][]string{
-		{times("a", api.MaxLine)},
-		{times("a", api.MaxLine-4), "l", ""},
-		{"", "l", times("a", api.MaxLine-4)},
+		{times("a", api.MaxLine+1)},
+		{times("a", api.MaxLine-3), "l", ""},
+		{"", "l", times("a", api.MaxLine-3)},
+		{times("a", 2000), "", times("b", 1989), "0123456789", "ccc"},
 		append(all, "", "", "end"),
 		{"a", times("l", api.MaxLiteral+1), "b"},
 	} {
@@ -130,7 +134,7 @@ func TestBackByChance(t *testing.T) {
 	r := rand.New(rand.NewSource(4))
 	back := 0
 	for range 20000 {
-		size := 1
+		size := 0
 		var all []string
 		for range r.Intn(api.MaxLiterals + 1) {
 			text := mayBe(chance(r, 4, smallPieces...))
@@ -140,7 +144,7 @@ func TestBackByChance(t *testing.T) {
 		}
 		last := mayBe(chance(r, 6, smallPieces...))
 		if r.Intn(3) == 0 {
-			last = mayBe(times("a", r.Intn(api.MaxLine)) + last)
+			last = times("a", api.MaxLine-size-r.Intn(3))
 		}
 		if size+len(last) <= api.MaxLine {
 			wantBack(t, rawOf(append(all, last)...))

@@ -1,6 +1,7 @@
 package wire
 
 import (
+	"bytes"
 	"strings"
 
 	"haversack/api"
@@ -15,8 +16,10 @@ type command struct {
 	out             wayOut
 }
 
-// long tells whether the lines so far have too many bytes. A 13 counts while its line has not ended, since it may not belong to the end.
-func (c *command) long() bool { return c.size+len(c.under) > api.MaxLine }
+// long tells whether the lines so far have too many bytes. A 13 that has come last may belong to the line's end, which does not count: just the byte behind it tells.
+func (c *command) long() bool {
+	return c.size+len(bytes.TrimSuffix(c.under, []byte{'\r'})) > api.MaxLine
+}
 
 // refuses tells whether a literal may not follow.
 func (c *command) refuses(m mark) bool {

@@ -28,7 +28,7 @@ func TestCutAtEachPlace(t *testing.T) {
 		wantEvents(t, "one by one", s, oneByOne(wire.New(), s), wanted)
 	}
 	for _, s := range []string{
-		a + "\r\nb\r\n", a[1:] + "\r\nb\r\n", a + "a\nb\n", a[4:] + "{3}\r\nxyz\n", a[3:] + "{3}\nxyz \nb\n", "c{1+}\nl" + a + "\nb\n",
+		a + "\r\nb\r\n", a + "\r\r\nb\r\n", a + "\rb\r\nc\n", a[3:] + "{3}\r\nxyz\r\nb\r\n", "c{1+}\r\nl" + a[5:] + "\r\nb\n", "c{1+}\r\nl" + a[5:] + "\r\r\nb\n", a[1:] + "\r\nb\r\n", a + "a\nb\n", a[4:] + "{3}\r\nxyz\n", a[3:] + "{3}\nxyz \nb\n", "c{1+}\nl" + a + "\nb\n",
 	} {
 		_, wanted := fed(s)
 		for i := range len(s) + 1 {
@@ -103,18 +103,18 @@ func TestBehindWhateverCame(t *testing.T) {
 		"", "a", "a\r", "a\n", "a\r\n", "x", "{", "{3", "{3+", "{3}", "{3+}", "{3}\r", "{3+}\r",
 		"{0}\n", "{0+}\n", "{1}\n", "{3+}\r\n", "{3+}\r\nab", "{3+}\r\nabc", "{46000}\n", "{46001+}\n", "{46010+}\nab", "{49999}\n", "{50000}\n", "{50000+}\r\n",
 		"{50000+}\n" + times("l", 49999), "{50000}\n" + times("l", 49999) + "x", "a{1+}\nlb{50000}\n", "a{50000}\n" + times("\n", 50000) + "b{50000+}\r\n",
-		a, a[1:], a + "a", a + "\r", a[4:] + "{1+}\n", a[9:] + "{50000+}\n", a + "{50000+}\n",
+		a, a[1:], a + "a", a + "\r", a[3:] + "{3}\r\n", a[3:] + "{3}\r", a[4:] + "{1+}\n", a[9:] + "{50000+}\n", a + "{50000+}\n",
 		full, full + "{", full + "{0}\n", full + "{0+}\n", full + "{50000+}\n", full + "{50000+}\n" + times("x", 20), full + "{1}\n", full + "{999999+}\r\n",
 		"{50001}\n", "{999999}\n", "{50001+}\n", "{50001+}\r\n", "{50002+}\n", "{50003+}\n", "{50010+}\n", "{60000+}\n", "{100004+}\n", "{999999+}\n", "{999999+}\r\n",
 		"{50001+}\n" + times("l", 50000), "{50001+}\n" + times("l", 50001), "{60000+}\n\r\n\r\n", "{60000+}\nx", "{60000+}\nx\r", "{60000+}\nxx\n", "{999999+}\n" + times("x\n", 30000), "{999999+}\n" + times("x", 50000) + "\r",
 	} {
 		for _, end := range ends {
-			for _, line := range []string{"", "n", "a b", "x", "{", "{1}x", "\rn", times("n", api.MaxLine-1)} {
+			for _, line := range []string{"", "n", "a b", "x", "{", "{1}x", "\rn", times("n", api.MaxLine)} {
 				wantOut(t, came, end, line, "\n")
 			}
 			wantOut(t, came, end, "n", "\r\n")
 			wantOut(t, came, end, "\r", "\r\n")
-			wantOut(t, came, end, a, "\n")
+			wantOut(t, came, end, a, "\r\n")
 		}
 	}
 }

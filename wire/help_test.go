@@ -116,8 +116,7 @@ func slowCommand(s string) (events []api.Event, rest string, ended bool) {
 	size := 0
 	for {
 		line, behind, ended := strings.Cut(s, "\n")
-		if size+len(line) > api.MaxLine {
-			first := line[:min(api.MaxLine-size+1, api.MaxLine)]
+		if first, is := slowFirst(line, api.MaxLine-size); is {
 			return append(events, slowEvent(api.EventLong, r, first)), behind, ended
 		}
 		if !ended {
@@ -150,6 +149,16 @@ func slowCommand(s string) (events []api.Event, rest string, ended bool) {
 			return events, "", false
 		}
 	}
+}
+
+// slowFirst is what is told of a line that has more bytes than there is room for: its shortest beginning that is too long, whether or not a 13 at its end is the line's.
+func slowFirst(line string, room int) (string, bool) {
+	for to := room; to <= len(line); to++ {
+		if len(strings.TrimSuffix(line[:to], "\r")) > room {
+			return line[:min(to, api.MaxLine)], true
+		}
+	}
+	return "", false
 }
 
 func slowEvent(kind int, r api.Raw, last string) api.Event {
@@ -262,7 +271,7 @@ var smallPieces = []string{
 
 // greatPieces bring commands to their bounds.
 var greatPieces = append([]string{
-	times("y", 3990), times("x", 3999), times("z", 4000), times("x", 4001), times("x", 2000), times("x", 700), times("\n", 30), times("{0+}\r\n", 19), times("{0+}\n", 21), times("{1}\nx", 20),
+	times("y", 3990), times("x", 3999), times("z", 4000), times("z", 4000) + "\r\n", times("z", 4000) + "\r", times("y", 3997) + "{3}\r\n", times("x", 4001), times("x", 2000), times("x", 700), times("\n", 30), times("{0+}\r\n", 19), times("{0+}\n", 21), times("{1}\nx", 20),
 	"{50000}\n", "{50000+}\r\n", "{50001+}\r\n", "{50001+}\n", "{50002+}\n", "{60000+}\r\n", "{999999+}\n", "{999999}\r\n",
 	times("x", 49999), times("x", 50000), times("x\r\n", 20000), times("l\n", 25000), times("x", 50000) + "\r", times("x", 50000) + "\n",
 }, smallPieces...)

@@ -27,23 +27,16 @@ func TestLinesAtMaxLine(t *testing.T) {
 	const most = api.MaxLine
 	for _, end := range ends {
 		want(t, "one less", a(most-1)+end, true, whole(a(most-1)))
+		want(t, "just so many", a(most)+end, true, whole(a(most)))
 		want(t, "one more", a(most+1)+end, true, long(a(most)))
 		want(t, "two more", a(most+2)+end, true, long(a(most)))
 		want(t, "many more", a(5*most)+end, true, long(a(most)))
 		want(t, "one more, and the next one", a(most+1)+end+"b"+end, true, long(a(most)), whole("b"))
 		want(t, "two of them", a(most+1)+end+a(most+1)+end, true, long(a(most)), long(a(most)))
-		want(t, "two of one less", a(most-1)+end+a(most-1)+end, true, whole(a(most-1)), whole(a(most-1)))
+		want(t, "two of just so many", a(most)+end+a(most)+end, true, whole(a(most)), whole(a(most)))
 	}
-	want(t, "just so many", a(most)+"\n", true, whole(a(most)))
 	want(t, "just so many, not ended", a(most), false)
-	want(t, "a 13 is one more, since the line has not ended", a(most)+"\r\n", true, long(a(most)))
-	want(t, "a 13 is the last one", a(most-1)+"\r\n", true, whole(a(most-1)))
-	want(t, "two 13 at the end", a(most-2)+"\r\r\n", true, whole(a(most-2)+"\r"))
-	want(t, "two 13, one of which is one more", a(most-1)+"\r\r\n", true, long(a(most-1)+"\r"))
-	want(t, "all of them 13", times("\r", most)+"\n", true, whole(times("\r", most-1)))
-	want(t, "all of them 13, and one more", times("\r", most+1)+"\n", true, long(times("\r", most)))
 	wantAt(t, "one more", a(most+1), long(a(most)))
-	wantAt(t, "a 13 that is one more", a(most)+"\r", long(a(most)))
 	wantAt(t, "of all kinds of bytes", "\x00\xff"+a(most-2)+"\xff", long("\x00\xff"+a(most-2)))
 }
 
@@ -54,9 +47,6 @@ func TestMarksAtMaxLine(t *testing.T) {
 	want(t, "a mark with + is the last bytes", a(most-4)+"{3+}\nxyz\n", true, whole(a(most-4), "xyz", ""))
 	want(t, "a mark is the last bytes, and a line without bytes", a(most-3)+"{3}\nxyz\nb\n", true, more(), whole(a(most-3), "xyz", ""), whole("b"))
 	wantAt(t, "a byte behind that", a(most-3)+"{3}\nxyzb", long(a(most-3), "xyz", "b"))
-	wantAt(t, "a 13 behind that", a(most-3)+"{3}\nxyz\r", long(a(most-3), "xyz", "\r"))
-	want(t, "a mark, and a 13 that is one more", a(most-3)+"{3}\r\nxyz\n", true, long(a(most-3)+"{3}"), whole("xyz"))
-	want(t, "a mark, and a 13 that is the last one", a(most-4)+"{3}\r\nxyz\n", true, more(), whole(a(most-4), "xyz", ""))
 	want(t, "the end of a mark is one more", a(most-2)+"{3}\r\nxyz\n", true, long(a(most-2)+"{3"), whole("xyz"))
 	want(t, "the end of a mark with + is one more", a(most-3)+"{3+}\r\nxyz\n", true, long(a(most-3)+"{3+"), whole("xyz"))
 	want(t, "the beginning of a mark is one more", a(most)+"{3}\r\nxyz\n", true, long(a(most)), whole("xyz"))
@@ -88,9 +78,8 @@ func TestSeveralLinesAtMaxLine(t *testing.T) {
 			left := most - c.size
 			last := func(s string) []string { return append(c.all[:len(c.all):len(c.all)], s) }
 			then := func(e ...api.Event) []api.Event { return append(c.told[:len(c.told):len(c.told)], e...) }
-			want(t, "one less, in several", c.ahead+b(left-1)+"\r\n", true, then(whole(last(b(left-1))...))...)
-			want(t, "as many, in several", c.ahead+b(left)+"\n", true, then(whole(last(b(left))...))...)
-			want(t, "a 13 that is one more, in several", c.ahead+b(left)+"\r\n", true, then(long(last(b(left)+"\r")...))...)
+			want(t, "one less, in several", c.ahead+b(left-1)+end, true, then(whole(last(b(left-1))...))...)
+			want(t, "as many, in several", c.ahead+b(left)+end, true, then(whole(last(b(left))...))...)
 			want(t, "one more, in several", c.ahead+b(left+1)+end+"c"+end, true, then(long(last(b(left+1))...), whole("c"))...)
 			want(t, "many more, in several", c.ahead+b(left+5000)+end+"c"+end, true, then(long(last(b(left+1))...), whole("c"))...)
 			want(t, "one more, not ended", c.ahead+b(left+1), false, then(long(last(b(left+1))...))...)
@@ -222,7 +211,7 @@ func TestEachWayToBeTooLongBesideEachOther(t *testing.T) {
 	want(t, "a line that is too long, and a mark that asks for too much", a(api.MaxLine-6)+"{50001}\nn\n", true, long(a(api.MaxLine-6)+"{50001"), whole("n"))
 	want(t, "a line that is too long, and one with + that asks for too much", a(api.MaxLine-7)+"{50001+}\nn\n", true, long(a(api.MaxLine-7)+"{50001+"), whole("n"))
 	want(t, "a line as long as may be, and a mark that asks for too much", a(api.MaxLine-7)+"{50001}\nn\n", true, long(a(api.MaxLine-7)), whole("n"))
-	want(t, "a line that is too long by its 13, and a mark that asks for too much", a(api.MaxLine-7)+"{50001}\r\nn\n", true, long(a(api.MaxLine-7)+"{50001}"), whole("n"))
+	want(t, "a line as long as may be, that ends with 13 10, and a mark that asks for too much", a(api.MaxLine-7)+"{50001}\r\nn\n", true, long(a(api.MaxLine-7)), whole("n"))
 	want(t, "lines that are too long, and a mark that is one more", full+a(most-2)+"{0}\nn\n", true, last(a(most-2)+"{0}"), whole("n"))
 	want(t, "lines as long as may be, and a mark that is one more", full+a(most-3)+"{0}\nn\n", true, last(a(most-3)), whole("n"))
 	want(t, "lines that are too long, and as many literals as may be", full+a(most+1)+"\nn\n", true, last(a(most+1)), whole("n"))
@@ -259,6 +248,10 @@ func TestEachShortTextAtTheBounds(t *testing.T) {
 	full := times("{0+}\n", api.MaxLiterals)
 	for _, ahead := range []string{
 		times("a", api.MaxLine-3),
+		times("a", api.MaxLine-1),
+		times("a", api.MaxLine) + "\r",
+		times("a", api.MaxLine-3) + "{3",
+		"a{1+}\nl" + times("a", api.MaxLine-6),
 		times("a", api.MaxLine-6) + "{1+}\nl",
 		times("a", api.MaxLine-5) + "{",
 		full[:len(full)-2],

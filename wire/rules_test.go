@@ -47,7 +47,7 @@ func TestAFeedThatIsAZeroValue(t *testing.T) {
 
 func TestTwoFeedsBesideEachOther(t *testing.T) {
 	texts := []string{
-		"", "a", "a\r\n", "a{3}\r\nxyz\r\n", "{2+}\n\r\n\n", times("a", 4001) + "\nb\n", "{50001+}\nabc", "{50001}\n", times("{0+}\n", 21), "b{1}\nl{1}\nm\n", "\r\r\n{0}\n",
+		"", "a", "a\r\n", "a{3}\r\nxyz\r\n", "{2+}\n\r\n\n", times("a", 4001) + "\nb\n", times("a", 4000) + "\r\nb\n", times("a", 4000) + "\rb\nc\n", "{50001+}\nabc", "{50001}\n", times("{0+}\n", 21), "b{1}\nl{1}\nm\n", "\r\r\n{0}\n",
 	}
 	for _, s := range texts {
 		for _, other := range texts {
